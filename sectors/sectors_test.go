@@ -6,17 +6,9 @@ import (
 	"testing"
 
 	"stowage/api"
+	"stowage/crashtest"
 	"stowage/disk"
 )
-
-func device(t testing.TB, n int) *disk.Dev {
-	t.Helper()
-	d, e := disk.New(n)
-	if e != api.OK {
-		t.Fatal(e)
-	}
-	return d
-}
 
 // pattern is n bytes of which no two sectors are alike, and none is nought.
 func pattern(n int) []byte {
@@ -28,7 +20,7 @@ func pattern(n int) []byte {
 }
 
 func TestWithin(t *testing.T) {
-	d := device(t, 5)
+	d := crashtest.Device(t, 5, 0)
 	for from := -7; from <= 7; from++ {
 		for n := -7; n <= 7; n++ {
 			want := from >= 0 && n >= 0 && from+n <= 5
@@ -65,10 +57,7 @@ func TestCount(t *testing.T) {
 
 func TestThereAndBack(t *testing.T) {
 	for size := range 1025 {
-		d := device(t, 8)
-		for i := range 8 {
-			d.Write(i, bytes.Repeat([]byte{0xEE}, 256))
-		}
+		d := crashtest.Device(t, 8, 0xEE)
 		if e := Write(d, 2, pattern(size)); e != api.OK || d.Pending() != 0 {
 			t.Fatal(size, e, d.Pending())
 		}
@@ -89,38 +78,14 @@ func TestThereAndBack(t *testing.T) {
 
 func TestTheCallsOfAWrite(t *testing.T) {
 	for n := range 5 {
-		for fuse := range n + 3 {
-			d := device(t, 8)
-			d.Fuse(fuse)
-			e := Write(d, 1, pattern(n*256))
-			if (e == api.OK) != (fuse > n) || (e == api.ErrDead) != (fuse <= n) {
-				t.Fatal(n, fuse, e)
-			}
-			waits := fuse
-			if fuse > n {
-				waits = 0
-			}
-			if d.Pending() != waits {
-				t.Fatal(n, fuse, d.Pending())
-			}
-			keep := make([]bool, n)
-			for i := range keep {
-				keep[i] = true
-			}
-			d.Crash(keep)
-			b, _ := Read(d, 1, n*256)
-			// By rising number, so what came ahead of the fault is the beginning.
-			want := pattern(n * 256)
-			clear(want[min(fuse, n)*256:])
-			if !bytes.Equal(b, want) {
-				t.Fatal(n, fuse, "not by rising number")
-			}
-		}
+		crashtest.Calls(t, crashtest.Device(t, 8, 0), func(c *disk.Dev) api.Errno {
+			return Write(c, 1, pattern(n*256))
+		}, crashtest.Writes(1, pattern(n*256)))
 	}
 }
 
 func TestErrorsOfTheDevice(t *testing.T) {
-	d := device(t, 4)
+	d := crashtest.Device(t, 4, 0)
 	if b, e := Read(d, 3, 257); b != nil || e != api.ErrArg {
 		t.Error(b, e)
 	}
@@ -137,7 +102,7 @@ func TestErrorsOfTheDevice(t *testing.T) {
 }
 
 func TestMemory(t *testing.T) {
-	d := device(t, 4)
+	d := crashtest.Device(t, 4, 0)
 	room := pattern(600)
 	if e := Write(d, 0, room[:300]); e != api.OK || !bytes.Equal(room, pattern(600)) {
 		t.Fatal(e, "the bytes, or the room behind them, were changed")

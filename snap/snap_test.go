@@ -13,6 +13,7 @@ import (
 	"testing"
 
 	"stowage/api"
+	"stowage/crashtest"
 	"stowage/disk"
 )
 
@@ -35,50 +36,6 @@ func forged(epoch, size uint64, state string) []byte {
 
 func slot(epoch uint64, state string) []byte {
 	return forged(epoch, uint64(len(state)), state)
-}
-
-func device(t testing.TB, n int) *disk.Dev {
-	t.Helper()
-	d, e := disk.New(n)
-	if e != api.OK {
-		t.Fatal(e)
-	}
-	return d
-}
-
-// used is a device that is not all noughts.
-func used(t testing.TB, n int) *disk.Dev {
-	t.Helper()
-	d := device(t, n)
-	lay(t, d, 0, bytes.Repeat([]byte{0xEE}, n*256))
-	return d
-}
-
-// lay writes b, of whole sectors, on the device from one on, and flushes it.
-func lay(t testing.TB, d *disk.Dev, from int, b []byte) {
-	t.Helper()
-	for i := range len(b) / 256 {
-		if e := d.Write(from+i, b[i*256:i*256+256]); e != api.OK {
-			t.Fatal(from+i, e)
-		}
-	}
-	if e := d.Flush(); e != api.OK {
-		t.Fatal(e)
-	}
-}
-
-// content is all that can be read of a device.
-func content(t testing.TB, d *disk.Dev) []byte {
-	t.Helper()
-	var all []byte
-	for i := range d.Size() {
-		b, e := d.Read(i)
-		if e != api.OK {
-			t.Fatal(i, e)
-		}
-		all = append(all, b...)
-	}
-	return all
 }
 
 func mustSave(t testing.TB, d *disk.Dev, from, n int, epoch uint64, state string) {
@@ -113,19 +70,6 @@ func noise(r *rand.Rand, n int) string {
 	return string(b)
 }
 
-// masks are all lists of n bools.
-func masks(n int) [][]bool {
-	l := [][]bool{nil}
-	for range n {
-		var longer [][]bool
-		for _, m := range l {
-			longer = append(longer, append(slices.Clone(m), false), append(slices.Clone(m), true))
-		}
-		l = longer
-	}
-	return l
-}
-
 // sizes are lengths of states at, ahead of and behind a sector's end.
 var sizes = []int{0, 1, 2, 24, 255, 256, 257, 511, 512, 513, 767, 768, 769, 1000, 1024}
 
@@ -135,7 +79,7 @@ var epochs = []uint64{0, 1, 2, 3, 254, 255, 256, 257, 1 << 32, 1<<32 + 1, 0x0102
 // 7.1
 
 func TestTheBytesOfAHead(t *testing.T) {
-	d := device(t, 4)
+	d := crashtest.Device(t, 4, 0)
 	mustSave(t, d, 0, 2, 0x0102030405060708, "abc")
 	b, _ := d.Read(0)
 	want := "534e4150" + "1da472c9" + "0102030405060708" + "0000000000000003"
@@ -153,8 +97,8 @@ func TestSlotsAsTheyLie(t *testing.T) {
 	for _, epoch := range epochs {
 		for _, size := range sizes {
 			for n := 1 + (size+255)/256; n < 7; n++ {
-				d := used(t, 16)
-				want := content(t, d)
+				d := crashtest.Device(t, 16, 0xEE)
+				want := crashtest.Content(t, d)
 				state := noise(r, size)
 				mustSave(t, d, 3, n, epoch, state)
 				at := 3
@@ -163,7 +107,7 @@ func TestSlotsAsTheyLie(t *testing.T) {
 				}
 				// Nothing else is written, be it in the slot or outside.
 				copy(want[at*256:], slot(epoch, state))
-				if !bytes.Equal(content(t, d), want) {
+				if !bytes.Equal(crashtest.Content(t, d), want) {
 					t.Fatal(epoch, size, n, "not the slot's bytes")
 				}
 				loads(t, d, 3, n, epoch, state)
@@ -207,8 +151,8 @@ var lieNowhere = [][2]int{
 }
 
 func TestSlotsThatLieNowhere(t *testing.T) {
-	d := used(t, 12)
-	before := content(t, d)
+	d := crashtest.Device(t, 12, 0xEE)
+	before := crashtest.Content(t, d)
 	d.Fuse(0)
 	for _, x := range lieNowhere {
 		for _, dev := range []*disk.Dev{d, nil} {
@@ -227,7 +171,7 @@ func TestSlotsThatLieNowhere(t *testing.T) {
 	if e := Save(nil, 0, 1, 0, nil); e != api.ErrArg {
 		t.Error(e)
 	}
-	if d.Dead() || d.Pending() != 0 || !bytes.Equal(content(t, d), before) {
+	if d.Dead() || d.Pending() != 0 || !bytes.Equal(crashtest.Content(t, d), before) {
 		t.Error("the device was touched")
 	}
 }
@@ -236,7 +180,7 @@ func TestSlotsOnEveryPiece(t *testing.T) {
 	for size := 1; size <= 9; size++ {
 		for from := range size + 1 {
 			for n := 1; n <= size; n++ {
-				d := device(t, size)
+				d := crashtest.Device(t, size, 0)
 				if from+2*n > size {
 					loadsNone(t, d, from, n, api.ErrArg)
 					if e := Save(d, from, n, 0, nil); e != api.ErrArg {
@@ -258,9 +202,9 @@ func TestSlotsOnEveryPiece(t *testing.T) {
 
 func TestFull(t *testing.T) {
 	for n := 1; n <= 5; n++ {
-		d := used(t, 12)
+		d := crashtest.Device(t, 12, 0xEE)
 		mustSave(t, d, 1, n, 4, "")
-		before := content(t, d)
+		before := crashtest.Content(t, d)
 		d.Fuse(0)
 		for _, more := range []int{1, 2, 255, 256, 257, 5000} {
 			for epoch := uint64(4); epoch < 8; epoch++ {
@@ -269,7 +213,7 @@ func TestFull(t *testing.T) {
 				}
 			}
 		}
-		if d.Dead() || d.Pending() != 0 || !bytes.Equal(content(t, d), before) {
+		if d.Dead() || d.Pending() != 0 || !bytes.Equal(crashtest.Content(t, d), before) {
 			t.Error(n, "the device was touched")
 		}
 		loads(t, d, 1, n, 4, "")
@@ -278,13 +222,13 @@ func TestFull(t *testing.T) {
 
 func TestAWholeDevice(t *testing.T) {
 	r := rand.New(rand.NewSource(72))
-	d := device(t, 4096)
+	d := crashtest.Device(t, 4096, 0)
 	a, b := noise(r, 2047*256), noise(r, 2047*256)
 	mustSave(t, d, 0, 2048, 1, a)
 	loads(t, d, 0, 2048, 1, a)
 	mustSave(t, d, 0, 2048, 2, b)
 	loads(t, d, 0, 2048, 2, b)
-	if !bytes.Equal(content(t, d), slices.Concat(slot(2, b), slot(1, a))) {
+	if !bytes.Equal(crashtest.Content(t, d), slices.Concat(slot(2, b), slot(1, a))) {
 		t.Error("not both slots")
 	}
 	if e := Save(d, 0, 2048, 3, make([]byte, 2047*256+1)); e != api.ErrFull {
@@ -292,90 +236,23 @@ func TestAWholeDevice(t *testing.T) {
 	}
 }
 
-// sectorWrite is a write that waits: where, and what it would leave there.
-type sectorWrite struct {
-	sector int
-	data   string
-}
-
-// waiting tells the writes of the device's cache, in their order. No sector may be written twice, and none as it is.
-func waiting(t *testing.T, d *disk.Dev) []sectorWrite {
-	t.Helper()
-	none := d.Copy()
-	none.Crash(nil)
-	before := content(t, none)
-	var l []sectorWrite
-	for i := range d.Pending() {
-		keep := make([]bool, i+1)
-		keep[i] = true
-		c := d.Copy()
-		c.Crash(keep)
-		after := content(t, c)
-		for s := range d.Size() {
-			if b := after[s*256 : s*256+256]; !bytes.Equal(b, before[s*256:s*256+256]) {
-				l = append(l, sectorWrite{s, string(b)})
-			}
-		}
-	}
-	if len(l) != d.Pending() {
-		t.Fatal("writes that change nothing", len(l), d.Pending())
-	}
-	return l
-}
-
-// TestTheCallsOfASave cuts a Save off behind each of its calls of the device, and looks at what waits there and what lasts.
 func TestTheCallsOfASave(t *testing.T) {
 	r := rand.New(rand.NewSource(73))
 	for _, size := range sizes {
 		for epoch := uint64(8); epoch < 10; epoch++ {
-			state := noise(r, size)
-			b := slot(epoch, state)
 			const from, n = 2, 6
 			at := from + int(epoch-8)*n
-			d := used(t, 16)
-			before := content(t, d)
-			var behind []sectorWrite
-			for i := 1; i < len(b)/256; i++ {
-				behind = append(behind, sectorWrite{at + i, string(b[i*256 : i*256+256])})
-			}
-			head := []sectorWrite{{at, string(b[:256])}}
-			calls := len(behind) + 3
-			for fuse := range calls + 2 {
-				c := d.Copy()
-				c.Fuse(fuse)
-				e := Save(c, from, n, epoch, []byte(state))
-				if (e == api.OK) != (fuse >= calls) || (e == api.ErrDead) != (fuse < calls) || c.Dead() != (fuse < calls) {
-					t.Fatal(size, fuse, e, c.Dead())
-				}
-				var waits, lasts []sectorWrite
-				switch {
-				case fuse <= len(behind):
-					waits = behind[:fuse]
-				case fuse == len(behind)+1:
-					lasts = behind
-				case fuse == len(behind)+2:
-					waits, lasts = head, behind
-				default:
-					lasts = slices.Concat(behind, head)
-				}
-				if got := waiting(t, c); !slices.Equal(got, waits) {
-					t.Fatal(size, fuse, "what waits", len(got), len(waits))
-				}
-				c.Crash(nil)
-				want := slices.Clone(before)
-				for _, w := range lasts {
-					copy(want[w.sector*256:], w.data)
-				}
-				if !bytes.Equal(content(t, c), want) {
-					t.Fatal(size, fuse, "lasting")
-				}
-			}
+			state := noise(r, size)
+			b := slot(epoch, state)
+			crashtest.Calls(t, crashtest.Device(t, 16, 0xEE), func(c *disk.Dev) api.Errno {
+				return Save(c, from, n, epoch, []byte(state))
+			}, crashtest.Writes(at+1, b[256:]), crashtest.Writes(at, b[:256]))
 		}
 	}
 }
 
 func TestSaveOnADeadDevice(t *testing.T) {
-	d := device(t, 12)
+	d := crashtest.Device(t, 12, 0)
 	mustSave(t, d, 0, 3, 1, "abc")
 	d.Fuse(0)
 	d.Flush()
@@ -408,7 +285,7 @@ func TestLoadTellsTheGreaterEpoch(t *testing.T) {
 			if a%2 == b%2 {
 				continue
 			}
-			d := used(t, 10)
+			d := crashtest.Device(t, 10, 0xEE)
 			mustSave(t, d, 1, 4, a, "first")
 			loads(t, d, 1, 4, a, "first")
 			mustSave(t, d, 1, 4, b, "second")
@@ -423,7 +300,7 @@ func TestLoadTellsTheGreaterEpoch(t *testing.T) {
 
 func TestASlotIsWrittenOver(t *testing.T) {
 	r := rand.New(rand.NewSource(74))
-	d := used(t, 14)
+	d := crashtest.Device(t, 14, 0xEE)
 	var states []string
 	for epoch := range uint64(200) {
 		state := noise(r, r.Intn(5*256+1))
@@ -496,12 +373,12 @@ func TestWhatIsNotWhole(t *testing.T) {
 			"a state without its head":    append(make([]byte, 256), good[256:]...),
 		} {
 			t.Run(name, func(t *testing.T) {
-				d := device(t, 12)
-				lay(t, d, from+int(number)*n, b)
+				d := crashtest.Device(t, 12, 0)
+				crashtest.Lay(t, d, from+int(number)*n, b)
 				loadsNone(t, d, from, n, api.ErrNone)
-				lay(t, d, from+int(number^1)*n, slot(number^1, "lower"))
+				crashtest.Lay(t, d, from+int(number^1)*n, slot(number^1, "lower"))
 				loads(t, d, from, n, number^1, "lower")
-				lay(t, d, from+int(number)*n, good)
+				crashtest.Lay(t, d, from+int(number)*n, good)
 				loads(t, d, from, n, epoch, state)
 			})
 		}
@@ -512,12 +389,12 @@ func TestALengthThatJustFits(t *testing.T) {
 	for n := 1; n <= 5; n++ {
 		for number := range uint64(2) {
 			fits, more := xs(256*(n-1)), xs(256*(n-1)+1)
-			d := device(t, 14)
-			lay(t, d, 1+int(number)*n, slot(number, fits))
+			d := crashtest.Device(t, 14, 0)
+			crashtest.Lay(t, d, 1+int(number)*n, slot(number, fits))
 			loads(t, d, 1, n, number, fits)
 			// Both sectors are the device's, but one of them is none of the slot's.
-			d = device(t, 14)
-			lay(t, d, 1+int(number)*n, slot(number, more))
+			d = crashtest.Device(t, 14, 0)
+			crashtest.Lay(t, d, 1+int(number)*n, slot(number, more))
 			loadsNone(t, d, 1, n, api.ErrNone)
 		}
 	}
@@ -532,8 +409,8 @@ func TestEveryBitCounts(t *testing.T) {
 			for bit := range 8 * len(whole) {
 				b := slices.Clone(whole)
 				b[bit/8] ^= 1 << (bit % 8)
-				d := device(t, 8)
-				lay(t, d, int(number)*4, b)
+				d := crashtest.Device(t, 8, 0)
+				crashtest.Lay(t, d, int(number)*4, b)
 				if at := bit / 8; at < 24 || at >= 256 && at < 256+size {
 					loadsNone(t, d, 0, 4, api.ErrNone)
 				} else {
@@ -546,18 +423,18 @@ func TestEveryBitCounts(t *testing.T) {
 }
 
 func TestSlotsTurnedRound(t *testing.T) {
-	d := device(t, 8)
-	lay(t, d, 0, slot(3, "three"))
-	lay(t, d, 4, slot(2, "two"))
+	d := crashtest.Device(t, 8, 0)
+	crashtest.Lay(t, d, 0, slot(3, "three"))
+	crashtest.Lay(t, d, 4, slot(2, "two"))
 	loadsNone(t, d, 0, 4, api.ErrNone)
-	lay(t, d, 0, slot(2, "two"))
+	crashtest.Lay(t, d, 0, slot(2, "two"))
 	loads(t, d, 0, 4, 2, "two")
-	lay(t, d, 4, slot(1, "one"))
+	crashtest.Lay(t, d, 4, slot(1, "one"))
 	loads(t, d, 0, 4, 2, "two")
 }
 
 func TestLoadReadsAlone(t *testing.T) {
-	d := device(t, 12)
+	d := crashtest.Device(t, 12, 0)
 	mustSave(t, d, 1, 5, 6, xs(700))
 	if e := d.Write(0, bytes.Repeat([]byte{7}, 256)); e != api.OK {
 		t.Fatal(e)
@@ -567,12 +444,12 @@ func TestLoadReadsAlone(t *testing.T) {
 		t.Fatal(e)
 	}
 	d.Fuse(0)
-	before := content(t, d)
+	before := crashtest.Content(t, d)
 	for range 3 {
 		loads(t, d, 1, 5, 7, "")
 		loadsNone(t, d, 2, 5, api.ErrNone)
 	}
-	if d.Dead() || d.Pending() != 2 || !bytes.Equal(content(t, d), before) {
+	if d.Dead() || d.Pending() != 2 || !bytes.Equal(crashtest.Content(t, d), before) {
 		t.Error("Load changes the device")
 	}
 	d.Crash(nil)
@@ -591,7 +468,7 @@ func crashing(t *testing.T, r *rand.Rand, d *disk.Dev, epoch uint64, old, state 
 		c := d.Copy()
 		c.Fuse(fuse)
 		saved := Save(c, from, n, epoch+1, []byte(state)) == api.OK
-		for _, keep := range masks(c.Pending()) {
+		for _, keep := range crashtest.Keeps(c.Pending()) {
 			k := c.Copy()
 			k.Crash(keep)
 			b, got, e := Load(k, from, n)
@@ -637,7 +514,7 @@ func likely(r *rand.Rand, epoch uint64, old string) string {
 func TestEveryCrash(t *testing.T) {
 	r := rand.New(rand.NewSource(76))
 	for range 30 {
-		d := used(t, 14)
+		d := crashtest.Device(t, 14, 0xEE)
 		epoch := r.Uint64() >> 1 >> r.Intn(63)
 		old := likely(r, epoch, "")
 		mustSave(t, d, 2, 5, epoch, old)
@@ -661,12 +538,12 @@ func TestEveryCrash(t *testing.T) {
 func TestTheFirstSaveCrashes(t *testing.T) {
 	for _, size := range []int{0, 1, 256, 600, 1024} {
 		for fuse := range len(slot(0, xs(size)))/256 + 2 {
-			d := used(t, 12)
+			d := crashtest.Device(t, 12, 0xEE)
 			d.Fuse(fuse)
 			if e := Save(d, 1, 5, 0, []byte(xs(size))); e != api.ErrDead {
 				t.Fatal(size, fuse, e)
 			}
-			for _, keep := range masks(d.Pending()) {
+			for _, keep := range crashtest.Keeps(d.Pending()) {
 				c := d.Copy()
 				c.Crash(keep)
 				b, epoch, e := Load(c, 1, 5)
@@ -682,7 +559,7 @@ func TestTheFirstSaveCrashes(t *testing.T) {
 
 func TestTheStateIsCopied(t *testing.T) {
 	for _, size := range []int{0, 1, 255, 256, 300} {
-		d := device(t, 8)
+		d := crashtest.Device(t, 8, 0)
 		room := []byte(strings.Repeat("s", size) + strings.Repeat("r", 600))
 		if e := Save(d, 0, 4, 0, room[:size]); e != api.OK {
 			t.Fatal(e)
@@ -697,7 +574,7 @@ func TestTheStateIsCopied(t *testing.T) {
 
 func TestWhatIsToldIsNewMemory(t *testing.T) {
 	for _, size := range []int{0, 1, 255, 256, 300} {
-		d := device(t, 8)
+		d := crashtest.Device(t, 8, 0)
 		mustSave(t, d, 0, 4, 0, xs(size))
 		a, _, _ := Load(d, 0, 4)
 		b, _, _ := Load(d, 0, 4)
@@ -712,8 +589,8 @@ func TestWhatIsToldIsNewMemory(t *testing.T) {
 // hostile loads from whatever bytes, holds what is told against the slots' bytes, and saves the epoch behind it.
 func hostile(t *testing.T, b []byte) {
 	b = append(slices.Clone(b), make([]byte, 8*256)...)[:8*256]
-	d := device(t, 8)
-	lay(t, d, 0, b)
+	d := crashtest.Device(t, 8, 0)
+	crashtest.Lay(t, d, 0, b)
 	for n := 1; n <= 4; n++ {
 		for from := range 9 - 2*n {
 			state, epoch, e := Load(d, from, n)
@@ -762,7 +639,7 @@ func FuzzLoad(f *testing.F) {
 // The chapter's examples.
 
 func TestExamples(t *testing.T) {
-	d := device(t, 8)
+	d := crashtest.Device(t, 8, 0)
 	loadsNone(t, d, 0, 4, api.ErrNone)
 	mustSave(t, d, 0, 4, 1, "abc")
 	if e := Save(d, 0, 4, 2, nil); e != api.OK {

@@ -12,6 +12,7 @@ import (
 	"testing"
 
 	"stowage/api"
+	"stowage/crashtest"
 	"stowage/disk"
 )
 
@@ -42,42 +43,6 @@ func sealed(epoch, number uint64, payload []byte) []byte {
 
 func framed(epoch, number uint64, records ...string) []byte {
 	return sealed(epoch, number, packed(records))
-}
-
-func device(t testing.TB, n int) *disk.Dev {
-	t.Helper()
-	d, e := disk.New(n)
-	if e != api.OK {
-		t.Fatal(e)
-	}
-	return d
-}
-
-// lay writes b, of whole sectors, on the device from one on, and flushes it.
-func lay(t testing.TB, d *disk.Dev, from int, b []byte) {
-	t.Helper()
-	for i := range len(b) / 256 {
-		if e := d.Write(from+i, b[i*256:i*256+256]); e != api.OK {
-			t.Fatal(from+i, e)
-		}
-	}
-	if e := d.Flush(); e != api.OK {
-		t.Fatal(e)
-	}
-}
-
-// content is all that can be read of a device.
-func content(t testing.TB, d *disk.Dev) []byte {
-	t.Helper()
-	var all []byte
-	for i := range d.Size() {
-		b, e := d.Read(i)
-		if e != api.OK {
-			t.Fatal(i, e)
-		}
-		all = append(all, b...)
-	}
-	return all
 }
 
 func mustOpen(t testing.TB, d *disk.Dev, from, n int, epoch uint64) (*Log, [][]string) {
@@ -115,19 +80,6 @@ func sameFrames(a, b [][]string) bool {
 
 func xs(n int) string {
 	return strings.Repeat("x", n)
-}
-
-// masks are all lists of n bools.
-func masks(n int) [][]bool {
-	l := [][]bool{nil}
-	for range n {
-		var longer [][]bool
-		for _, m := range l {
-			longer = append(longer, append(slices.Clone(m), false), append(slices.Clone(m), true))
-		}
-		l = longer
-	}
-	return l
 }
 
 // lists are records of many kinds: none, empty ones, many, and such as end at, ahead of and behind a sector's end.
@@ -171,14 +123,14 @@ func TestNeedOfMoreThanAnyLogHolds(t *testing.T) {
 	if got := Need(l); got != (24+1<<20*(1<<20+4)+255)/256 {
 		t.Error(got)
 	}
-	log, _ := mustOpen(t, device(t, 1), 0, 1, 0)
+	log, _ := mustOpen(t, crashtest.Device(t, 1, 0), 0, 1, 0)
 	if e := log.Append(l); e != api.ErrFull {
 		t.Error(e)
 	}
 }
 
 func TestTheBytesOfAFrame(t *testing.T) {
-	d := device(t, 2)
+	d := crashtest.Device(t, 2, 0)
 	l, _ := mustOpen(t, d, 0, 2, 0x0102030405060708)
 	mustAppend(t, l, "ab", "")
 	b, _ := d.Read(0)
@@ -190,14 +142,14 @@ func TestTheBytesOfAFrame(t *testing.T) {
 
 func TestFramesAsTheyLie(t *testing.T) {
 	for _, epoch := range []uint64{0, 1, 255, 256, 1 << 32, 1<<56 + 3, math.MaxUint64} {
-		d := device(t, 300)
-		lay(t, d, 3, bytes.Repeat([]byte{0xEE}, 290*256))
+		d := crashtest.Device(t, 300, 0)
+		crashtest.Lay(t, d, 3, bytes.Repeat([]byte{0xEE}, 290*256))
 		l, _ := mustOpen(t, d, 3, 290, epoch)
 		var want []byte
 		for i, records := range lists() {
 			mustAppend(t, l, records...)
 			want = append(want, framed(epoch, uint64(i), records...)...)
-			if got := content(t, d)[3*256:]; !bytes.Equal(got[:len(want)], want) {
+			if got := crashtest.Content(t, d)[3*256:]; !bytes.Equal(got[:len(want)], want) {
 				t.Fatal(epoch, i, "not the frames' bytes")
 			}
 			if l.Next() != uint64(i+1) || l.Room() != 290-len(want)/256 {
@@ -211,7 +163,7 @@ func TestFramesAsTheyLie(t *testing.T) {
 // 6.2
 
 func TestOpenOfNoLog(t *testing.T) {
-	d := device(t, 12)
+	d := crashtest.Device(t, 12, 0)
 	for _, x := range [][2]int{
 		{0, 0}, {0, -1}, {0, math.MinInt}, {12, 0}, {3, -3}, {3, math.MinInt},
 		{-1, 1}, {-1, 2}, {-1, 12}, {-1, 13}, {-12, 12}, {math.MinInt, 1}, {math.MinInt, math.MaxInt},
@@ -232,7 +184,7 @@ func TestOpenOfNoLog(t *testing.T) {
 func TestOpenOfEveryPiece(t *testing.T) {
 	for from := range 5 {
 		for n := 1; n <= 5-from; n++ {
-			l, all := mustOpen(t, device(t, 5), from, n, 0)
+			l, all := mustOpen(t, crashtest.Device(t, 5, 0), from, n, 0)
 			if len(all) != 0 || l.Next() != 0 || l.Room() != n {
 				t.Error(from, n, all, l.Next(), l.Room())
 			}
@@ -241,8 +193,8 @@ func TestOpenOfEveryPiece(t *testing.T) {
 }
 
 func TestOpenOfADeadDevice(t *testing.T) {
-	d := device(t, 4)
-	lay(t, d, 0, framed(0, 0, "a"))
+	d := crashtest.Device(t, 4, 0)
+	crashtest.Lay(t, d, 0, framed(0, 0, "a"))
 	d.Fuse(0)
 	d.Flush()
 	if l, all, e := Open(d, 0, 4, 0); l != nil || all != nil || e != api.ErrDead {
@@ -258,7 +210,7 @@ func TestOpenOfADeadDevice(t *testing.T) {
 }
 
 func TestOpenReadsWhatIsNotYetFlushed(t *testing.T) {
-	d := device(t, 4)
+	d := crashtest.Device(t, 4, 0)
 	if e := d.Write(1, framed(0, 0, "a")); e != api.OK {
 		t.Fatal(e)
 	}
@@ -303,13 +255,13 @@ func TestWhatIsNoFrame(t *testing.T) {
 		"begins a sector on":   append(make([]byte, 256), framed(epoch, 1, "x")...),
 	} {
 		t.Run(name, func(t *testing.T) {
-			d := device(t, 16)
-			lay(t, d, 4, slices.Concat(framed(epoch, 0, "first"), middle, framed(epoch, 2, "last")))
+			d := crashtest.Device(t, 16, 0)
+			crashtest.Lay(t, d, 4, slices.Concat(framed(epoch, 0, "first"), middle, framed(epoch, 2, "last")))
 			tells(t, d, 4, 8, epoch, []string{"first"})
 		})
 	}
-	d := device(t, 16)
-	lay(t, d, 4, slices.Concat(framed(epoch, 0, "first"), good, framed(epoch, 2, "last")))
+	d := crashtest.Device(t, 16, 0)
+	crashtest.Lay(t, d, 4, slices.Concat(framed(epoch, 0, "first"), good, framed(epoch, 2, "last")))
 	tells(t, d, 4, 8, epoch, []string{"first"}, []string{"middle", xs(300)}, []string{"last"})
 }
 
@@ -320,8 +272,8 @@ func TestEveryBitOfAFrameCounts(t *testing.T) {
 		for bit := range 8 * len(frame) {
 			b := slices.Clone(frame)
 			b[bit/8] ^= 1 << (bit % 8)
-			d := device(t, 8)
-			lay(t, d, 0, b)
+			d := crashtest.Device(t, 8, 0)
+			crashtest.Lay(t, d, 0, b)
 			if bit < 8*size {
 				tells(t, d, 0, 8, 0)
 			} else {
@@ -335,8 +287,8 @@ func TestEveryBitOfAFrameCounts(t *testing.T) {
 func TestAFrameLiesWhollyWithinTheLog(t *testing.T) {
 	for sectors := 1; sectors <= 5; sectors++ {
 		fits := []string{xs(sectors*256 - 28)}
-		d := device(t, 12)
-		lay(t, d, 2, framed(9, 0, fits...))
+		d := crashtest.Device(t, 12, 0)
+		crashtest.Lay(t, d, 2, framed(9, 0, fits...))
 		for n := 1; n <= 10; n++ {
 			if n < sectors {
 				tells(t, d, 2, n, 9)
@@ -346,20 +298,20 @@ func TestAFrameLiesWhollyWithinTheLog(t *testing.T) {
 		}
 		// One byte more: the device has that sector, the log has not.
 		more := []string{xs(sectors*256 - 27)}
-		d = device(t, 12)
-		lay(t, d, 2, framed(9, 0, more...))
+		d = crashtest.Device(t, 12, 0)
+		crashtest.Lay(t, d, 2, framed(9, 0, more...))
 		tells(t, d, 2, sectors, 9)
 		tells(t, d, 2, sectors+1, 9, more)
 	}
 }
 
 func TestFramesUpToTheEnd(t *testing.T) {
-	d := device(t, 8)
+	d := crashtest.Device(t, 8, 0)
 	var all []byte
 	for i := range uint64(8) {
 		all = append(all, framed(3, i, "r")...)
 	}
-	lay(t, d, 0, all)
+	crashtest.Lay(t, d, 0, all)
 	for n := 1; n <= 8; n++ {
 		tells(t, d, 0, n, 3, slices.Repeat([][]string{{"r"}}, n)...)
 	}
@@ -370,7 +322,7 @@ func TestFramesUpToTheEnd(t *testing.T) {
 }
 
 func TestAWholeDevice(t *testing.T) {
-	d := device(t, 4096)
+	d := crashtest.Device(t, 4096, 0)
 	long := []string{"k", xs(4096*256 - 33)}
 	l, _ := mustOpen(t, d, 0, 4096, 1)
 	mustAppend(t, l, long...)
@@ -383,98 +335,31 @@ func TestAWholeDevice(t *testing.T) {
 
 // 6.3
 
-// sectorWrite is a write that waits: where, and what it would leave there.
-type sectorWrite struct {
-	sector int
-	data   string
-}
-
-// waiting tells the writes of the device's cache, in their order. No sector may be written twice, and none as it is.
-func waiting(t *testing.T, d *disk.Dev) []sectorWrite {
-	t.Helper()
-	none := d.Copy()
-	none.Crash(nil)
-	before := content(t, none)
-	var l []sectorWrite
-	for i := range d.Pending() {
-		keep := make([]bool, i+1)
-		keep[i] = true
-		c := d.Copy()
-		c.Crash(keep)
-		after := content(t, c)
-		for s := range d.Size() {
-			if b := after[s*256 : s*256+256]; !bytes.Equal(b, before[s*256:s*256+256]) {
-				l = append(l, sectorWrite{s, string(b)})
-			}
-		}
-	}
-	if len(l) != d.Pending() {
-		t.Fatal("writes that change nothing", len(l), d.Pending())
-	}
-	return l
-}
-
-// TestTheCallsOfAnAppend cuts an Append off behind each of its calls of the device, and looks at what waits there and what lasts.
 func TestTheCallsOfAnAppend(t *testing.T) {
 	for _, x := range []struct{ need, room int }{{1, 1}, {1, 2}, {1, 5}, {2, 2}, {2, 3}, {2, 5}, {3, 3}, {3, 4}, {5, 5}, {5, 6}} {
-		frame := framed(4, 1, xs(x.need*256-30))
-		d := device(t, 12)
-		lay(t, d, 0, bytes.Repeat([]byte{0xEE}, 12*256))
-		from, at := 3, 4
+		d := crashtest.Device(t, 12, 0xEE)
+		const from, at = 3, 4
 		l, _ := mustOpen(t, d, from, x.room+1, 4)
 		mustAppend(t, l, "ahead")
-		before := content(t, d)
-		var first, all []sectorWrite
-		for i := 1; i < x.need; i++ {
-			first = append(first, sectorWrite{at + i, string(frame[i*256 : i*256+256])})
-		}
+		record := xs(x.need*256 - 30)
+		frame := framed(4, 1, record)
+		first, behind := frame[:256], frame[256:]
 		if x.room > x.need {
-			first = append(first, sectorWrite{at + x.need, string(make([]byte, 256))})
+			behind = append(behind, make([]byte, 256)...)
 		}
-		all = append(slices.Clone(first), sectorWrite{at, string(frame[:256])})
-		calls := len(first) + 3
-		for fuse := range calls + 2 {
-			c := d.Copy()
+		crashtest.Calls(t, d, func(c *disk.Dev) api.Errno {
 			m, _ := mustOpen(t, c, from, x.room+1, 4)
-			c.Fuse(fuse)
-			e := m.Append([]string{xs(x.need*256 - 30)})
-			dead := c.Dead()
-			if (e == api.OK) != (fuse >= calls) || (e == api.ErrDead) != (fuse < calls) || dead != (fuse < calls) {
-				t.Fatal(x, fuse, e, dead)
-			}
-			var waits, lasts []sectorWrite
-			switch {
-			case fuse <= len(first):
-				waits = first[:fuse]
-			case fuse == len(first)+1:
-				lasts = first
-			case fuse == len(first)+2:
-				waits, lasts = all[len(first):], first
-			default:
-				lasts = all
-			}
-			if got := waiting(t, c); !slices.Equal(got, waits) {
-				t.Fatal(x, fuse, "what waits", len(got), len(waits))
-			}
-			c.Crash(nil)
-			want := slices.Clone(before)
-			for _, w := range lasts {
-				copy(want[w.sector*256:], w.data)
-			}
-			if !bytes.Equal(content(t, c), want) {
-				t.Fatal(x, fuse, "lasting")
-			}
-		}
+			return m.Append([]string{record})
+		}, crashtest.Writes(at+1, behind), crashtest.Writes(at, first))
 	}
 }
 
 func TestNoughtsBehindTheLastFrame(t *testing.T) {
 	for need := 1; need <= 4; need++ {
-		d := device(t, 10)
-		lay(t, d, 0, bytes.Repeat([]byte{0xEE}, 10*256))
+		d := crashtest.Device(t, 10, 0xEE)
 		l, _ := mustOpen(t, d, 2, 6, 0)
 		mustAppend(t, l, xs(need*256-28))
-		got := content(t, d)
+		got := crashtest.Content(t, d)
 		want := slices.Concat(bytes.Repeat([]byte{0xEE}, 512), framed(0, 0, xs(need*256-28)), make([]byte, 256))
 		want = append(want, bytes.Repeat([]byte{0xEE}, 10*256-len(want))...)
 		if !bytes.Equal(got, want) {
@@ -487,8 +372,7 @@ func TestALogKeepsToItsSectors(t *testing.T) {
 	r := rand.New(rand.NewSource(6))
 	for range 40 {
 		from, n := r.Intn(6), 1+r.Intn(10)
-		d := device(t, 20)
-		lay(t, d, 0, bytes.Repeat([]byte{0xEE}, 20*256))
+		d := crashtest.Device(t, 20, 0xEE)
 		l, _ := mustOpen(t, d, from, n, 1)
 		for range 60 {
 			l.Append([]string{xs(r.Intn(700))})
@@ -496,7 +380,7 @@ func TestALogKeepsToItsSectors(t *testing.T) {
 		if l.Room() != 0 {
 			l.Append(nil)
 		}
-		got := content(t, d)
+		got := crashtest.Content(t, d)
 		if bytes.Trim(got[:from*256], "\xEE") != nil || bytes.Trim(got[(from+n)*256:], "\xEE") != nil {
 			t.Fatal(from, n, "sectors of others were changed")
 		}
@@ -505,10 +389,10 @@ func TestALogKeepsToItsSectors(t *testing.T) {
 
 func TestFull(t *testing.T) {
 	for room := range 6 {
-		d := device(t, 10)
+		d := crashtest.Device(t, 10, 0)
 		l, _ := mustOpen(t, d, 1, room+1, 8)
 		mustAppend(t, l, "ahead")
-		before := content(t, d)
+		before := crashtest.Content(t, d)
 		d.Fuse(0) // Nothing is written, nor flushed.
 		for need := room + 1; need < 10; need++ {
 			for _, records := range [][]string{{xs(need*256 - 28)}, {xs(max(need*256-28-255, 0))}, {"", xs(need*256 - 32)}} {
@@ -517,7 +401,7 @@ func TestFull(t *testing.T) {
 				}
 			}
 		}
-		if d.Dead() || d.Pending() != 0 || !bytes.Equal(content(t, d), before) {
+		if d.Dead() || d.Pending() != 0 || !bytes.Equal(crashtest.Content(t, d), before) {
 			t.Error(room, "the device was touched")
 		}
 		d.Fuse(-1)
@@ -537,7 +421,7 @@ func TestFull(t *testing.T) {
 
 func TestADeadLogStaysDead(t *testing.T) {
 	for fuse := range 5 {
-		d := device(t, 8)
+		d := crashtest.Device(t, 8, 0)
 		l, _ := mustOpen(t, d, 0, 4, 0)
 		mustAppend(t, l, "a")
 		d.Fuse(fuse)
@@ -570,7 +454,7 @@ func TestADeadLogStaysDead(t *testing.T) {
 }
 
 func TestADeviceThatDiedElsewhere(t *testing.T) {
-	d := device(t, 4)
+	d := crashtest.Device(t, 4, 0)
 	l, _ := mustOpen(t, d, 0, 2, 0)
 	mustAppend(t, l, "a")
 	d.Fuse(0)
@@ -583,7 +467,7 @@ func TestADeviceThatDiedElsewhere(t *testing.T) {
 	mustAppend(t, l, "b")
 	tells(t, d, 0, 2, 0, []string{"a"}, []string{"b"})
 
-	d = device(t, 4)
+	d = crashtest.Device(t, 4, 0)
 	l, _ = mustOpen(t, d, 0, 2, 0)
 	d.Fuse(0)
 	d.Flush()
@@ -597,7 +481,7 @@ func TestADeviceThatDiedElsewhere(t *testing.T) {
 }
 
 func TestALogGoesOnBehindOpen(t *testing.T) {
-	d := device(t, 40)
+	d := crashtest.Device(t, 40, 0)
 	var want [][]string
 	for i := range 20 {
 		l, all := mustOpen(t, d, 3, 30, 2)
@@ -632,7 +516,7 @@ func crashing(t *testing.T, r *rand.Rand, d *disk.Dev, epoch uint64, were [][]st
 		}
 		c.Fuse(fuse)
 		e := l.Append(records)
-		for _, keep := range masks(c.Pending()) {
+		for _, keep := range crashtest.Keeps(c.Pending()) {
 			k := c.Copy()
 			k.Crash(keep)
 			_, all := mustOpen(t, k, from, n, epoch)
@@ -665,8 +549,7 @@ func goesOn(t *testing.T, d *disk.Dev, from, n int, epoch uint64, all [][]string
 func TestEveryCrash(t *testing.T) {
 	r := rand.New(rand.NewSource(64))
 	for range 25 {
-		d := device(t, 16)
-		lay(t, d, 0, bytes.Repeat([]byte{0xEE}, 16*256))
+		d := crashtest.Device(t, 16, 0xEE)
 		// Each epoch is opened behind the end of the one before.
 		for epoch := range uint64(3) {
 			var were [][]string
@@ -694,7 +577,7 @@ func TestEveryCrash(t *testing.T) {
 }
 
 func TestCrashesUnderALogThatGoesOn(t *testing.T) {
-	d := device(t, 40)
+	d := crashtest.Device(t, 40, 0)
 	l, _ := mustOpen(t, d, 0, 40, 0)
 	var want [][]string
 	for i := range 20 {
@@ -710,7 +593,7 @@ func TestCrashesUnderALogThatGoesOn(t *testing.T) {
 }
 
 func TestANewEpochForgetsTheOld(t *testing.T) {
-	d := device(t, 10)
+	d := crashtest.Device(t, 10, 0)
 	for epoch := range uint64(30) {
 		l, all := mustOpen(t, d, 1, 8, epoch)
 		if len(all) != 0 || l.Next() != 0 || l.Room() != 8 {
@@ -731,7 +614,7 @@ func TestANewEpochForgetsTheOld(t *testing.T) {
 // 6.5
 
 func TestOpenReadsAlone(t *testing.T) {
-	d := device(t, 12)
+	d := crashtest.Device(t, 12, 0)
 	l, _ := mustOpen(t, d, 2, 8, 0)
 	mustAppend(t, l, "a", "")
 	mustAppend(t, l, xs(600))
@@ -740,7 +623,7 @@ func TestOpenReadsAlone(t *testing.T) {
 		t.Fatal(e)
 	}
 	d.Fuse(0)
-	before := content(t, d)
+	before := crashtest.Content(t, d)
 	for range 3 {
 		for epoch := range uint64(3) {
 			var want [][]string
@@ -749,7 +632,7 @@ func TestOpenReadsAlone(t *testing.T) {
 			}
 			tells(t, d, 2, 8, epoch, want...)
 		}
-		if d.Dead() || d.Pending() != 1 || !bytes.Equal(content(t, d), before) {
+		if d.Dead() || d.Pending() != 1 || !bytes.Equal(crashtest.Content(t, d), before) {
 			t.Fatal("Open changes the device")
 		}
 	}
@@ -758,7 +641,7 @@ func TestOpenReadsAlone(t *testing.T) {
 // 6.6
 
 func TestRecordsAreCopied(t *testing.T) {
-	d := device(t, 8)
+	d := crashtest.Device(t, 8, 0)
 	l, _ := mustOpen(t, d, 0, 8, 0)
 	room := []string{"a", "b", "c", "d"}
 	if e := l.Append(room[:2]); e != api.OK {
@@ -773,7 +656,7 @@ func TestRecordsAreCopied(t *testing.T) {
 }
 
 func TestWhatIsToldIsNewMemory(t *testing.T) {
-	d := device(t, 8)
+	d := crashtest.Device(t, 8, 0)
 	l, _ := mustOpen(t, d, 0, 8, 0)
 	mustAppend(t, l, "a", "b", "c")
 	mustAppend(t, l, "d")
@@ -802,9 +685,9 @@ func TestWhatIsToldIsNewMemory(t *testing.T) {
 
 // hostile opens a log on whatever bytes, and holds what it tells against the frames' bytes.
 func hostile(t *testing.T, b []byte, epoch uint64) {
-	d := device(t, 8)
+	d := crashtest.Device(t, 8, 0)
 	b = append(slices.Clone(b), make([]byte, 8*256)...)[:8*256]
-	lay(t, d, 0, b)
+	crashtest.Lay(t, d, 0, b)
 	for n := 1; n <= 8; n++ {
 		l, all := mustOpen(t, d, 0, n, epoch)
 		at := 0
@@ -849,7 +732,7 @@ func FuzzOpen(f *testing.F) {
 // The chapter's examples.
 
 func TestExamples(t *testing.T) {
-	d := device(t, 4)
+	d := crashtest.Device(t, 4, 0)
 	l, all := mustOpen(t, d, 0, 4, 0)
 	if len(all) != 0 || l.Next() != 0 || l.Room() != 4 {
 		t.Error(all, l.Next(), l.Room())
