@@ -6,10 +6,9 @@ import (
 	"strings"
 
 	"stowage/api"
-	"stowage/body"
 	"stowage/chars"
 	"stowage/http"
-	"stowage/xml"
+	"stowage/tagset"
 )
 
 const (
@@ -67,20 +66,10 @@ func tagsOf(headers []api.Header) ([]api.Tag, api.Errno) {
 		}
 		l = append(l, api.Tag{Key: key, Value: text})
 	}
-	if !mayBeTags(l) {
+	if !tagset.MayBe(l) {
 		return nil, api.ErrInvalidTag
 	}
 	return l, api.OK
-}
-
-// mayBeTags asks body of a document with these tags. Tags that no document can hold could never be told again.
-func mayBeTags(l []api.Tag) bool {
-	s, e := xml.Print(body.OfTags(l), false)
-	if e != api.OK {
-		return false
-	}
-	_, e = body.Tags(s)
-	return e == api.OK
 }
 
 // sourceOf tells what is copied.
@@ -99,14 +88,11 @@ func sourceOf(headers []api.Header) (api.Source, api.Errno) {
 	return api.Source{Bucket: bucket, Key: key, Version: version}, api.OK
 }
 
-// sourceVersion tells the version that stands behind the question mark of a source.
+// sourceVersion tells the version that stands behind the question mark of a source. Its name may be escaped as well as its value.
 func sourceVersion(query string) (string, bool) {
-	value, ok := strings.CutPrefix(query, "versionId=")
-	if !ok {
-		return "", false
-	}
-	version, ok := chars.Unescape(value)
-	if !ok || !namesVersion(version) {
+	pair, ok := chars.Unescape(query)
+	version, named := strings.CutPrefix(pair, "versionId=")
+	if !ok || !named || !namesVersion(version) {
 		return "", false
 	}
 	return version, true

@@ -132,6 +132,12 @@ func TestTags(t *testing.T) {
 		"%0D=%0A":             tagged("\r", "\n"),
 		"a=1&A=1":             tagged("a", "1", "A", "1"),
 		"a=1&a+=1":            tagged("a", "1", "a ", "1"),
+		"%00=%01":             tagged("\x00", "\x01"),
+		"a%00=&a=%00":         tagged("a\x00", "", "a", "\x00"),
+		"a=%0B%1f%7F":         tagged("a", "\x0b\x1f\x7f"),
+		"%ef%bf%be=\uffff":    tagged("\ufffe", "\uffff"),
+		"%ef%bf%bd=\ufffd":    tagged("\ufffd", "\ufffd"),
+		"\x00=\x1f":           tagged("\x00", "\x1f"),
 		"<a>=%22'%26amp;":     tagged("<a>", "\"'&amp;"),
 		" =a":                 tagged(" ", "a"),
 		"a%3Db=c":             tagged("a=b", "c"),
@@ -158,15 +164,37 @@ func TestTagsThatMayNotBe(t *testing.T) {
 		}
 		return strings.Join(l, "&")
 	}
-	for _, wrong := range []string{"=", "=a", "&=", "a=1&=2", "a&a", "a=1&a=1", "a=1&b=2&a=3", "a=1&%61=2", "+=1&%20=2", many(11), many(12), many(5000), "%ff", "a=%ff", "\xff", "a=\xc3", "%01", "a=%00", "a=%0B", "%ef%bf%be=1", "a=%ed%a0%80", strings.Repeat("k", 129), strings.Repeat("k", 70000), "a=" + strings.Repeat("v", 257), "a=" + strings.Repeat("v", 70000), strings.Repeat("%c3%a9", 129), "a=" + strings.Repeat("\u20ac", 257)} {
+	for _, wrong := range []string{"=", "=a", "&=", "a=1&=2", "a&a", "a=1&a=1", "a=1&b=2&a=3", "a=1&%61=2", "+=1&%20=2", many(11), many(12), many(5000), "%ff", "a=%ff", "\xff", "a=\xc3", "%01=\xc3", "a%ff=%00", "%c3=%a9", "a=%ed%a0%80", strings.Repeat("%00", 129), "a=" + strings.Repeat("%ef%bf%bf", 257), "%00=1&%00=2", strings.Repeat("k", 129), strings.Repeat("k", 70000), "a=" + strings.Repeat("v", 257), "a=" + strings.Repeat("v", 70000), strings.Repeat("%c3%a9", 129), "a=" + strings.Repeat("\u20ac", 257)} {
 		keepsNot(t, api.ErrInvalidTag, "x-amz-tagging", wrong)
 	}
-	for _, right := range []string{many(9), many(10), strings.Repeat("k", 128), "a=" + strings.Repeat("v", 256), strings.Repeat("%c3%a9", 128), "a=" + strings.Repeat("\u20ac", 256), strings.Repeat("%f0%9f%98%80", 128) + "=" + strings.Repeat("%f0%9f%98%80", 256)} {
+	for _, right := range []string{many(9), many(10), strings.Repeat("k", 128), "a=" + strings.Repeat("v", 256), strings.Repeat("%c3%a9", 128), "a=" + strings.Repeat("\u20ac", 256), strings.Repeat("%f0%9f%98%80", 128) + "=" + strings.Repeat("%f0%9f%98%80", 256), strings.Repeat("%00", 128) + "=" + strings.Repeat("%ef%bf%bf", 256)} {
 		for kind, r := range keepers() {
 			if o, e := agrees(t, with(r, "x-amz-tagging", right), nil); e != api.OK || len(o.Attrs.Tags) != len(strings.Split(right, "&")) {
 				t.Errorf("%s %.100q: %v %d", kind, right, o, e)
 			}
 		}
+	}
+}
+
+// A header may name characters that no document can hold; bytes that are no characters make no tag.
+func TestEachCharacterOfTags(t *testing.T) {
+	for b := range 256 {
+		key, value := fmt.Sprintf("%%%02x", b), fmt.Sprintf("k=%%%02X", b)
+		if b >= 0x80 {
+			keepsNot(t, api.ErrInvalidTag, "x-amz-tagging", key)
+			keepsNot(t, api.ErrInvalidTag, "x-amz-tagging", value)
+			continue
+		}
+		c := string(rune(b))
+		keeps(t, api.Attrs{Type: "t", Tags: []api.Tag{{Key: c}}}, "content-type", "t", "x-amz-tagging", key)
+		keeps(t, api.Attrs{Type: "t", Tags: []api.Tag{{Key: "k", Value: c}}}, "content-type", "t", "x-amz-tagging", value)
+	}
+	for _, c := range []rune{0x80, 0x9F, 0x7FF, 0x800, 0xD7FF, 0xE000, 0xFFFD, 0xFFFE, 0xFFFF, 0x10000, 0x1FFFE, 0x10FFFF} {
+		var escaped string
+		for _, b := range []byte(string(c)) {
+			escaped += fmt.Sprintf("%%%02x", b)
+		}
+		keeps(t, api.Attrs{Type: "t", Tags: []api.Tag{{Key: string(c), Value: string(c)}}}, "content-type", "t", "x-amz-tagging", escaped+"="+escaped)
 	}
 }
 
@@ -233,7 +261,11 @@ func TestSource(t *testing.T) {
 		"src/" + strings.Repeat("k", 1024):   {Bucket: "src", Key: strings.Repeat("k", 1024)},
 		"src/" + strings.Repeat("%6B", 1024): {Bucket: "src", Key: strings.Repeat("k", 1024)},
 		strings.Repeat("a", 63) + "/s":       {Bucket: strings.Repeat("a", 63), Key: "s"},
-		"src/s?versionId=%30%30%30%300000000000" + "0a": {Bucket: "src", Key: "s", Version: "000000000000000a"},
+		"src/s?%76ersionId=null":             {Bucket: "src", Key: "s", Version: "null"},
+		"src/s?versionId%3Dnull":             {Bucket: "src", Key: "s", Version: "null"},
+		"src/s?version%49d%3d%6Eull":         {Bucket: "src", Key: "s", Version: "null"},
+		"src/s?%76%65%72%73%69%6f%6e%49%64%3d%30000000000000007": {Bucket: "src", Key: "s", Version: "0000000000000007"},
+		"src/s?versionId=%30%30%30%300000000000" + "0a":          {Bucket: "src", Key: "s", Version: "000000000000000a"},
 	} {
 		tell(value, want)
 	}
@@ -243,7 +275,7 @@ func TestSourcesThatAreWrong(t *testing.T) {
 	for _, wrong := range []string{
 		"", "/", "//", "?", "/?", "?versionId=null", "src", "/src", "src/", "/src/", "//src/s", "%2Fsrc/s", "/%2Fsrc/s", "sr/s", "SRC/s", "s_c/s", "1.2.3.4/s", " src/s", "src /s",
 		"src/%", "src/%4", "src/%zz", "%/s", "src/%00", "src/\xff", "src/%ff", "src/" + strings.Repeat("k", 1025), strings.Repeat("a", 64) + "/s",
-		"src/s?", "src/s?x", "src/s?versionId", "src/s?versionId=", "src/s?versionId=x", "src/s?versionId=Null", "src/s?versionid=null", "src/s?VersionId=null", "src/s?x&versionId=null", "src/s?versionId=null&x", "src/s?versionId=null&", "src/s?&versionId=null", "src/s??versionId=null", "src/s?versionId=null?", "src/s?versionId=null?versionId=null", "src/s?versionId==null", "src/s?versionId=%", "src/s?versionId=null%", "src/s?versionId=+null", "src/s?versionId=null+", "src/s?versionId=null ", "src/s?version%49d=null", "src/s?versionId%3Dnull", "src/s%3F?", "src/s?versionId=ff", "src/s?versionId=8000000000000000", "src/s?versionId=00000000000000FF", "src/s?versionId=null\n",
+		"src/s?", "src/s?x", "src/s?versionId", "src/s?versionId=", "src/s?versionId=x", "src/s?versionId=Null", "src/s?versionid=null", "src/s?VersionId=null", "src/s?x&versionId=null", "src/s?versionId=null&x", "src/s?versionId=null&", "src/s?&versionId=null", "src/s??versionId=null", "src/s?versionId=null?", "src/s?versionId=null?versionId=null", "src/s?versionId==null", "src/s?versionId=%", "src/s?versionId=null%", "src/s?versionId=+null", "src/s?versionId=null+", "src/s?versionId=null ", "src/s?%56ersionId=null", "src/s?%2576ersionId=null", "src/s?versionId%253Dnull", "src/s?versionId=%256Eull", "src/s?%versionId=null", "src/s?versionId%3=null", "src/s?%3DversionId=null", "src/s?versionId%3D=null", "src/s?%2F?versionId=null", "src/s%3FversionId=null?", "src/s%3F?", "src/s?versionId=ff", "src/s?versionId=8000000000000000", "src/s?versionId=00000000000000FF", "src/s?versionId=null\n",
 		"src?/s", "src?versionId=null/s", "http://src/s",
 	} {
 		for _, target := range []string{"/abc/k", "/src/s"} {

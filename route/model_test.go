@@ -85,7 +85,7 @@ var (
 	addressForm   = regexp.MustCompile(`\A([0-9]+\.){3}[0-9]+\z`)
 	numberForm    = regexp.MustCompile(`\A(0|[1-9][0-9]{0,17})\z`)
 	versionForm   = regexp.MustCompile(`\A(null|[0-7][0-9a-f]{15})\z`)
-	sourceForm    = regexp.MustCompile(`(?s)\A/?([^?]*)(?:\?versionId=(.*))?\z`)
+	sourceForm    = regexp.MustCompile(`(?s)\A/?([^?]*)(?:\?(.*))?\z`)
 	placeForm     = regexp.MustCompile(`(?s)\A([^/]*)/(.*)\z`)
 )
 
@@ -308,7 +308,7 @@ func attrsModel(r api.Request) (a api.Attrs, e api.Errno) {
 	keys := map[string]int{}
 	for _, t := range a.Tags {
 		keys[t.Key]++
-		if t.Key == "" || utf8.RuneCountInString(t.Key) > 128 || utf8.RuneCountInString(t.Value) > 256 || !mayBeInDocument(t.Key+t.Value) {
+		if t.Key == "" || utf8.RuneCountInString(t.Key) > 128 || utf8.RuneCountInString(t.Value) > 256 || !utf8.ValidString(t.Key+"/"+t.Value) {
 			return api.Attrs{}, 333
 		}
 	}
@@ -330,9 +330,12 @@ func sourceModel(r api.Request) (api.Source, api.Errno) {
 	if !ok || place == nil || !mayBeBucket(place[1]) || !mayBeKey(place[2]) {
 		return api.Source{}, 319
 	}
-	version, ok := unescaped(m[2])
-	if !ok || strings.Contains(value, "?") && !versionForm.MatchString(version) {
-		return api.Source{}, 319
+	pair, ok := unescaped(m[2])
+	version, named := strings.CutPrefix(pair, "versionId=")
+	if strings.Contains(value, "?") {
+		if !ok || !named || !versionForm.MatchString(version) {
+			return api.Source{}, 319
+		}
 	}
 	return api.Source{Bucket: place[1], Key: place[2], Version: version}, 0
 }
